@@ -257,8 +257,8 @@ func TestP71ByParts(t *testing.T) {
 	}
 }
 
-// All expressions of few parts, over one table and over two.
-func TestP71ShortExpressions(t *testing.T) {
+// shortExprs are all expressions of few parts.
+func shortExprs() []api.Expr {
 	leaves := []api.Expr{expr("null"), num(1), expr("true"), expr("'x'"), col("a"), col("b"), colOf("u", "a"), colOf("x", "a"), col("nowhere"), op(countAll)}
 	var l []api.Expr
 	for n := range unary() {
@@ -279,6 +279,11 @@ func TestP71ShortExpressions(t *testing.T) {
 			l = append(l, op(n, e))
 		}
 	}
+	return append(l, leaves...)
+}
+
+func TestP71ShortExpressions(t *testing.T) {
+	l := shortExprs()
 	for _, scope := range [][]catalog.Table{tables("t"), tables("t", "u"), tables("u", "t")} {
 		for _, e := range l {
 			for _, may := range []bool{false, true} {

@@ -35,6 +35,15 @@ func (r *reading) expr(e api.Expr, aggregates bool) (api.Expr, int) {
 	return done, kind
 }
 
+// constant asks an insert's expression part by part, each by itself: nothing that a column stands in is asked ahead of it.
+func (r *reading) constant(e api.Expr) (api.Expr, int) {
+	for _, p := range parts(e, 0, nil) {
+		r.ask(p.e.Op != 1, api.ErrColumn)
+		r.expr(p.e, false)
+	}
+	return r.expr(e, false)
+}
+
 func (r *reading) condition(l []api.Expr) []api.Expr {
 	var done []api.Expr
 	for _, e := range l {
@@ -98,9 +107,7 @@ func (r *reading) rows(rows [][]api.Expr) [][]api.Expr {
 		r.ask(len(row) == len(columns), api.ErrCount)
 		var l []api.Expr
 		for i, e := range row {
-			d, kind := r.expr(e, false)
-			names, _ := outside(e)
-			r.ask(len(names) == 0, api.ErrColumn)
+			d, kind := r.constant(e)
 			if i < len(columns) {
 				r.ask(kind == 0 || kind == columns[i].Kind, api.ErrType)
 			}

@@ -18,20 +18,31 @@ type resolved struct {
 	kind int
 }
 
-// resolve resolves an expression that may be, each part behind its Args, and
-// tells whether aggregates may be in it. At the first part that is at fault it
-// panics with the error's number.
+// resolve resolves an expression whose columns are the scope's.
 func (s scope) resolve(e api.Expr, aggregates bool) resolved {
+	return resolve(e, s.column, aggregates)
+}
+
+// constant resolves an expression that hangs on no row: a column in it is at
+// fault at its turn, whatever it would be in a scope.
+func constant(e api.Expr) resolved {
+	return resolve(e, func(api.Expr) resolved { panic(api.ErrColumn) }, false)
+}
+
+// resolve resolves an expression that may be, each part behind its Args, its
+// columns by column; aggregates tells whether there may be any. At the first
+// part that is at fault it panics with the error's number.
+func resolve(e api.Expr, column func(e api.Expr) resolved, aggregates bool) resolved {
 	switch e.Op {
 	case opLiteral:
 		return literal(e.Value)
 	case opColumn:
-		return s.column(e)
+		return column(e)
 	}
 	done := api.Expr{Op: e.Op}
 	var kinds []int
 	for _, arg := range e.Args {
-		r := s.resolve(arg, aggregates && !isAggregate(e.Op))
+		r := resolve(arg, column, aggregates && !isAggregate(e.Op))
 		done.Args = append(done.Args, r.expr)
 		kinds = append(kinds, r.kind)
 	}

@@ -103,22 +103,13 @@ func (c *checker) rows() [][]api.Expr {
 		}
 		var row []api.Expr
 		for i, e := range given {
-			row = append(row, c.constant(e, columns[i].Kind))
+			done := constant(e)
+			fit(columns[i].Kind, done.kind)
+			row = append(row, done.expr)
 		}
 		rows = append(rows, row)
 	}
 	return rows
-}
-
-// constant answers an expression of that kind that hangs on no row.
-func (c *checker) constant(e api.Expr, kind int) api.Expr {
-	done := c.scope.resolve(e, false)
-	isColumn := func(e api.Expr) bool { return e.Op == opColumn }
-	if anyOutside([]api.Expr{done.expr}, isColumn) {
-		panic(api.ErrColumn)
-	}
-	fit(kind, done.kind)
-	return done.expr
 }
 
 func (c *checker) sets() []api.Set {

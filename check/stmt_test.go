@@ -197,7 +197,7 @@ func TestP72InsertErrors(t *testing.T) {
 		"insert into t values (1, true, 'x', 2), (1)":                    api.ErrCount,
 		"insert into t values (x.a, a, 1, count(*), 5)":                  api.ErrCount, // ahead of what stands in it
 		"insert into t values (1, true, 'x', 'x'), (1)":                  api.ErrType,  // but a row ahead of it counts
-		"insert into t values (1, true, x.a, 2), (1)":                    api.ErrTable,
+		"insert into t values (1, true, x.a, 2), (1)":                    api.ErrColumn,
 		"insert into t values (1, true, 'x', 2), (1), ('x', 1, 1, true)": api.ErrCount,
 		"insert into one values (1), ('x', 'y')":                         api.ErrType,
 		"insert into one values ('x', 'y'), (1)":                         api.ErrCount,
@@ -211,21 +211,22 @@ func TestP72InsertErrors(t *testing.T) {
 		"insert into t values (1, a, 'x', 2)":                    api.ErrColumn,
 		"insert into t values (1, true, 'x', 2), (1, b, 'x', 2)": api.ErrColumn,
 
-		"insert into t values (u.a, true, 'x', 2)":               api.ErrTable, // Expr's errors, as in a scope of the table
-		"insert into t values (a + c, true, 'x', 2)":             api.ErrType,
-		"insert into t values (1 + 'x', true, 'x', 2)":           api.ErrType,
-		"insert into t values ((1 + 'x') + a, true, 'x', 2)":     api.ErrType,
+		"insert into t values (1 + 'x', true, 'x', 2)":           api.ErrType, // Expr's errors
 		"insert into t values (count(*), true, 'x', 2)":          api.ErrArg,
 		"insert into t values (1, max(true), 'x', 2)":            api.ErrArg,
 		"insert into t values (1, true, min('x') is null, 2)":    api.ErrArg,
 		"insert into t values (1, true, sum('x'), count(*))":     api.ErrType,
-		"insert into t values (max(a), true, 'x', 2)":            api.ErrArg,
 		"insert into t values (1, true, nowhere, u.a)":           api.ErrColumn,
 		"insert into t values (1, 1, nowhere, u.a)":              api.ErrType,
-		"insert into t values (1, true, u.a, nowhere)":           api.ErrTable,
+		"insert into t values (1, true, u.a, 2 + 'x')":           api.ErrColumn,
 		"insert into t values (1, a, 1, 2), (u.a, 1, true, 'x')": api.ErrColumn,
 	})
-	// Each place of a row, with each kind of literal.
+	placesOfARow(t)
+}
+
+// placesOfARow holds each place of a row, with each kind of literal.
+func placesOfARow(t *testing.T) {
+	t.Helper()
 	literals := []string{"null", "1", "true", "'x'"}
 	for _, table := range some().Tables {
 		for i, c := range table.Columns {
@@ -241,6 +242,71 @@ func TestP72InsertErrors(t *testing.T) {
 				if want := kind == 0 || kind == c.Kind; want != (err == api.OK) || !want && err != api.ErrType {
 					t.Errorf("%s: Stmt = %d", text, err)
 				}
+			}
+		}
+	}
+}
+
+// A column of an insert is refused at its turn, part by part, Args first: whatever Expr would tell of it, or of the parts that it stands in.
+func TestP72ColumnsOfAnInsert(t *testing.T) {
+	for s, want := range map[string]api.Errno{
+		"a":                         api.ErrColumn,
+		"t.a":                       api.ErrColumn,
+		"u.a":                       api.ErrColumn, // of another table
+		"x.a":                       api.ErrColumn, // of a table that is not
+		"x.nowhere":                 api.ErrColumn,
+		"nowhere":                   api.ErrColumn,
+		"x.a + null":                api.ErrColumn,
+		"null + x.a":                api.ErrColumn,
+		"a and a":                   api.ErrColumn, // ahead of the kinds of what it stands in
+		"true + n":                  api.ErrColumn,
+		"null + b":                  api.ErrColumn,
+		"a + c":                     api.ErrColumn,
+		"-b":                        api.ErrColumn,
+		"not a":                     api.ErrColumn,
+		"a = 'x'":                   api.ErrColumn,
+		"1 + ('x' + (true + a))":    api.ErrColumn,
+		"count(a)":                  api.ErrColumn, // ahead of the aggregate that it stands in
+		"max(a)":                    api.ErrColumn,
+		"sum(c)":                    api.ErrColumn,
+		"sum(x.a)":                  api.ErrColumn,
+		"max(min(a))":               api.ErrColumn,
+		"a + (-true)":               api.ErrColumn, // ahead of what comes behind it
+		"x.a + (-true)":             api.ErrColumn,
+		"c is null and 1":           api.ErrColumn,
+		"a + count(*)":              api.ErrColumn,
+		"x.a = sum('x')":            api.ErrColumn,
+		"max(a) + max(1)":           api.ErrColumn,
+		"(-true) + a":               api.ErrType, // what comes ahead of it
+		"(-true) + x.a":             api.ErrType,
+		"(1 = 'x') and nowhere":     api.ErrType,
+		"1 + ((true + 1) + a)":      api.ErrType,
+		"(1 and true) is null or a": api.ErrType,
+		"count(*) + a":              api.ErrArg,
+		"max(1) = x.a":              api.ErrArg,
+		"max(1) + max(a)":           api.ErrArg,
+		"sum('x') = x.a":            api.ErrType,
+	} {
+		for i := range 4 {
+			row := []string{"null", "null", "null", "null"}
+			row[i] = s
+			text := "insert into t values (1, true, 'x', 2), (" + strings.Join(row, ", ") + ")"
+			refusesStmt(t, text, some(), stmt(text), want)
+		}
+	}
+}
+
+// All expressions of few parts, each in each place of a row.
+func TestP72ShortExpressionsOfAnInsert(t *testing.T) {
+	s := some()
+	for _, e := range shortExprs() {
+		for i := range 4 {
+			row := make([]api.Expr, 4)
+			row[i] = e
+			x := api.Stmt{Kind: 4, Table: "t", Rows: [][]api.Expr{row}}
+			want, wrong := byChapter(s, x)
+			if got, err := check.Stmt(s, x); !sameTyped(got, want) || err != wrong {
+				t.Fatalf("Stmt(%+v) = %+v, %d, not %+v, %d", x, got, err, want, wrong)
 			}
 		}
 	}
